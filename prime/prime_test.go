@@ -95,9 +95,13 @@ func TestP2FactorsAreNewMemory(t *testing.T) {
 		for i := range spare {
 			spare[i] = api.Power{P: -1, N: -1}
 		}
+		// Before the third call, which could put shared memory right again.
+		if !slices.Equal(second, want) {
+			t.Fatalf("Factor(%d) is %v after a change of another, want %v", n, second, want)
+		}
 		third, _ := prime.Factor(n)
-		if !slices.Equal(second, want) || !slices.Equal(third, want) {
-			t.Fatalf("Factor(%d) is %v and %v after a change of %v", n, second, third, want)
+		if !slices.Equal(third, want) {
+			t.Fatalf("Factor(%d) is then %v, want %v", n, third, want)
 		}
 	}
 }
